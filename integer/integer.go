@@ -6,6 +6,7 @@ import (
 	"strings"
 
 	"cellarer/api"
+	"cellarer/wide"
 )
 
 // Valid reports whether a text is canonical.
@@ -24,17 +25,17 @@ func Valid(s string) bool {
 
 // Add returns the sum of two integers.
 func Add(a, b string) (string, api.Errno) {
-	return combine(a, b, number.plus)
+	return combine(a, b, wide.Int.Plus)
 }
 
 // Sub returns the difference of two integers.
 func Sub(a, b string) (string, api.Errno) {
-	return combine(a, b, number.minus)
+	return combine(a, b, wide.Int.Minus)
 }
 
 // Mul returns the product of two integers.
 func Mul(a, b string) (string, api.Errno) {
-	return combine(a, b, number.times)
+	return combine(a, b, wide.Int.Times)
 }
 
 // DivMod returns the quotient of two integers, rounded down, and the remainder, which is 0 or has the sign of b.
@@ -43,11 +44,11 @@ func DivMod(a, b string) (string, string, api.Errno) {
 	if !ok {
 		return "", "", api.ErrForm
 	}
-	if len(y.size) == 0 {
+	if y.Sign() == 0 {
 		return "", "", api.ErrZero
 	}
-	quotient, rest := x.divideDown(y)
-	return quotient.text(), rest.text(), api.OK
+	quotient, rest := x.DivideDown(y)
+	return quotient.Text(), rest.Text(), api.OK
 }
 
 // Gcd returns the greatest common divisor of two integers, which is not negative.
@@ -56,32 +57,24 @@ func Gcd(a, b string) (string, api.Errno) {
 	if !ok {
 		return "", api.ErrForm
 	}
-	return signed(false, commonDivisor(x.size, y.size)).text(), api.OK
+	return wide.CommonDivisor(x, y).Text(), api.OK
 }
 
 // Cmp returns -1, 0 or 1 if a is less than, equal to, or greater than b, and 0 if one of them is not canonical.
 func Cmp(a, b string) int {
 	x, y, ok := readBoth(a, b)
-	switch {
-	case !ok:
+	if !ok {
 		return 0
-	case x.negative && y.negative:
-		return compare(y.size, x.size)
-	case x.negative:
-		return -1
-	case y.negative:
-		return 1
 	}
-	return compare(x.size, y.size)
+	return wide.Compare(x, y)
 }
 
 // Neg returns the text of -a, and the empty string if a is not canonical.
 func Neg(a string) string {
-	x, ok := read(a)
-	if !ok {
+	if !Valid(a) {
 		return ""
 	}
-	return x.negated().text()
+	return wide.Read(a).Negated().Text()
 }
 
 // Small returns the machine integer of a canonical text, and whether there is one.
@@ -102,15 +95,23 @@ func Of(n int64) string {
 }
 
 // combine applies an operation to the integers of two texts.
-func combine(a, b string, operate func(number, number) number) (string, api.Errno) {
+func combine(a, b string, operate func(wide.Int, wide.Int) wide.Int) (string, api.Errno) {
 	x, y, ok := readBoth(a, b)
 	if !ok {
 		return "", api.ErrForm
 	}
-	text := operate(x, y).text()
+	text := operate(x, y).Text()
 	// The text of a number fails to be canonical only if it has too many digits.
 	if !Valid(text) {
 		return "", api.ErrLong
 	}
 	return text, api.OK
+}
+
+// readBoth returns the integers of two texts, and whether both texts are canonical.
+func readBoth(a, b string) (wide.Int, wide.Int, bool) {
+	if !Valid(a) || !Valid(b) {
+		return wide.Int{}, wide.Int{}, false
+	}
+	return wide.Read(a), wide.Read(b), true
 }

@@ -12,6 +12,9 @@ import (
 	"cellarer/api"
 )
 
+// base is that of the limbs, near whose powers carries and borrows are likely.
+const base = 1_000_000_000
+
 // notCanonical are texts that stand for no integer.
 func notCanonical() []string {
 	long := strings.Repeat("9", api.MaxDigits+1)

@@ -1,4 +1,4 @@
-package integer
+package wide
 
 import (
 	"cmp"
@@ -11,6 +11,7 @@ const (
 	base       = 1_000_000_000
 	limbDigits = 9
 	wordLimbs  = 2
+	wordLimit  = base * base
 )
 
 // natural is a natural number as limbs of nine digits each, the lowest first; the highest one is not 0, and 0 has none.
@@ -27,6 +28,20 @@ func readNatural(digits string) natural {
 		}
 	}
 	return n.trim()
+}
+
+// naturalOf returns the number of a machine word.
+func naturalOf(word uint64) natural {
+	return natural{uint32(word % base), uint32(word / base % base), uint32(word / base / base)}.trim()
+}
+
+// word returns the number of at most two limbs as a machine word.
+func (n natural) word() uint64 {
+	value := uint64(0)
+	for i := range len(n) {
+		value = value*base + uint64(n[len(n)-1-i])
+	}
+	return value
 }
 
 // appendTo appends the decimal digits of n to a text.
@@ -158,29 +173,4 @@ func reduce(rest, divisor natural) uint32 {
 	}
 	rest[n] = 0
 	return uint32(times)
-}
-
-// commonDivisor returns the greatest common divisor of two numbers.
-func commonDivisor(a, b natural) natural {
-	for len(b) > 0 && max(len(a), len(b)) > wordLimbs {
-		_, rest := divide(a, b)
-		a, b = b, rest
-	}
-	if len(b) == 0 {
-		return a
-	}
-	x, y := a.word(), b.word()
-	for y > 0 {
-		x, y = y, x%y
-	}
-	return natural{uint32(x % base), uint32(x / base)}.trim()
-}
-
-// word returns the number of at most two limbs as a machine word.
-func (n natural) word() uint64 {
-	value := uint64(0)
-	for i := range len(n) {
-		value = value*base + uint64(n[len(n)-1-i])
-	}
-	return value
 }

@@ -1,4 +1,4 @@
-package integer
+package wide
 
 import (
 	"slices"
