@@ -16,17 +16,9 @@ func whole(n wide.Int) fraction {
 	return fraction{num: n, den: wide.Of(1)}
 }
 
-// reduced returns the fraction in lowest terms for num divided by den, which is not 0.
+// reduced returns the fraction for num divided by den, which is not 0.
 func reduced(num, den wide.Int) fraction {
-	divisor := wide.CommonDivisor(num, den)
-	if den.Sign() < 0 {
-		divisor = divisor.Negated()
-	}
-	if divisor.IsOne() {
-		return fraction{num, den}
-	}
-	num, _ = num.DivideDown(divisor)
-	den, _ = den.DivideDown(divisor)
+	num, den = wide.Reduced(num, den)
 	return fraction{num, den}
 }
 

@@ -132,6 +132,20 @@ func CommonDivisor(x, y Int) Int {
 	return signed(false, commonDivisor(x.limbs(), y.limbs()))
 }
 
+// Reduced returns the numerator and the denominator, greater than 0, of num divided by den in lowest terms, where den is not 0.
+func Reduced(num, den Int) (Int, Int) {
+	divisor := CommonDivisor(num, den)
+	if den.Sign() < 0 {
+		divisor = divisor.Negated()
+	}
+	if divisor.IsOne() {
+		return num, den
+	}
+	num, _ = num.divide(divisor)
+	den, _ = den.divide(divisor)
+	return num, den
+}
+
 // Compare returns -1, 0 or 1 if x is less than, equal to, or greater than y.
 func Compare(x, y Int) int {
 	switch {

@@ -144,6 +144,24 @@ func TestCommonDivisor(t *testing.T) {
 	}
 }
 
+func TestReduced(t *testing.T) {
+	test := func(a, b *big.Int) {
+		t.Helper()
+		if b.Sign() == 0 {
+			return
+		}
+		num, den := Reduced(Read(a.String()), Read(b.String()))
+		want := new(big.Rat).SetFrac(a, b)
+		check(t, "the numerator of Reduced", a, b, num, want.Num())
+		check(t, "the denominator of Reduced", a, b, den, want.Denom())
+	}
+	pairs(test)
+	numbers := drawn(3000)
+	for i := 0; i+2 < len(numbers); i += 3 {
+		test(new(big.Int).Mul(numbers[i], numbers[i+2]), new(big.Int).Mul(numbers[i+1], numbers[i+2]))
+	}
+}
+
 // TestOperandsStay checks that no operation changes an operand.
 func TestOperandsStay(t *testing.T) {
 	pairs(func(a, b *big.Int) {
@@ -155,6 +173,7 @@ func TestOperandsStay(t *testing.T) {
 		CommonDivisor(x, y)
 		if y.Sign() != 0 {
 			x.DivideDown(y)
+			Reduced(x, y)
 		}
 		if x.Text() != a.String() || y.Text() != b.String() {
 			t.Fatalf("%v and %v have become %s and %s", a, b, x.Text(), y.Text())
