@@ -2,9 +2,9 @@ package syntax
 
 import (
 	"math"
-	"strings"
 
 	"cellarer/api"
+	"cellarer/names"
 	"cellarer/token"
 )
 
@@ -94,9 +94,9 @@ func haveForms(t api.Tree) bool {
 func fitsText(wanted int, text string) bool {
 	switch wanted {
 	case lower:
-		return isWord(text) && isLower(rune(text[0])) && !token.Keyword(text)
+		return names.Lower(text) && !token.Keyword(text)
 	case upper:
-		return isWord(text) && isUpper(rune(text[0]))
+		return names.Upper(text)
 	}
 	return text == ""
 }
@@ -148,19 +148,4 @@ func fitsCount(t api.Tree, l api.Leaf) bool {
 // isIn reports whether a kind, which may be any number, is in a set.
 func isIn(kinds, kind int) bool {
 	return kind >= 0 && kinds>>kind&1 > 0
-}
-
-// isWord reports whether a text consists of bytes of names, and of as many as a name has.
-func isWord(text string) bool {
-	return text != "" && len(text) <= api.MaxName && !strings.ContainsFunc(text, func(r rune) bool {
-		return !isLower(r) && !isUpper(r) && (r < '0' || r > '9') && r != '_'
-	})
-}
-
-func isLower(r rune) bool {
-	return 'a' <= r && r <= 'z'
-}
-
-func isUpper(r rune) bool {
-	return 'A' <= r && r <= 'Z'
 }
